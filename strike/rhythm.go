@@ -13,15 +13,19 @@ var (
 	found sync.Once
 )
 
-func eighths() [8]complex128 {
-	found.Do(func() {
-		h := math.Sqrt(0.5)
-		turn = [8]complex128{
-			complex(1, 0), complex(h, h), complex(0, 1), complex(-h, h),
-			complex(-1, 0), complex(-h, -h), complex(0, -1), complex(h, -h),
-		}
-	})
+// Eighths are those of a turn, from a whole one on.
+func Eighths() [8]complex128 {
+	found.Do(func() { turn = eighths() })
 	return turn
+}
+
+// eighths works them out. Rhythm goes by this, so that what it answers hangs on nothing that is kept.
+func eighths() [8]complex128 {
+	h := math.Sqrt(0.5)
+	return [8]complex128{
+		complex(1, 0), complex(h, h), complex(0, 1), complex(-h, h),
+		complex(-1, 0), complex(-h, -h), complex(0, -1), complex(h, -h),
+	}
 }
 
 // Rhythm is how much of each of eight rhythms there is in a row of numbers.
